@@ -78,7 +78,7 @@ func checkSeparate(t *testing.T, name string, lists [][]int64) {
 
 // outside are integers below 0 and beyond a limit, with both ends of int64.
 func outside(limit int64) []int64 {
-	return []int64{-1, limit + 1, math.MinInt64, math.MaxInt64, math.MinInt64 + 1, -limit, limit + 2, 1 << 62}
+	return []int64{-1, limit + 1, math.MinInt64, math.MaxInt64, math.MinInt64 + 1, -limit - 1, limit + 2, 1 << 62}
 }
 
 // checkNumber fails unless a number and a code are those that are wanted.
