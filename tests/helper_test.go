@@ -47,6 +47,14 @@ func wholeLists(lists [][]int64) [][]int64 {
 	return whole
 }
 
+func copiedLists(lists [][]int64) [][]int64 {
+	var copied [][]int64
+	for _, list := range lists {
+		copied = append(copied, slices.Clone(list))
+	}
+	return copied
+}
+
 // overwrite fills lists, and the spare capacity behind them, with one number.
 func overwrite(n int64, lists ...[]int64) {
 	for _, list := range lists {
