@@ -112,3 +112,27 @@ func mustLists(t *testing.T, lists [][]int64, code int64) [][]int64 {
 	}
 	return lists
 }
+
+// checkKept makes a call with copies of lists that have spare capacity, and fails if it changes them,
+// if its result shares memory with them, or if the result of a second call is another one after that
+// of the first call has been overwritten.
+func checkKept(t *testing.T, name string, lists [][]int64, call func(lists [][]int64) [][]int64) {
+	t.Helper()
+	given := spareLists(lists)
+	whole := wholeLists(given)
+	result := call(given)
+	before, want := wholeLists(result), copiedLists(result)
+	if !equalLists(wholeLists(given), whole) {
+		t.Errorf("%s changes an argument", name)
+	}
+	overwrite(99, given[:cap(given)]...)
+	clear(given[:cap(given)])
+	if !equalLists(wholeLists(result), before) {
+		t.Errorf("%s shares memory with an argument", name)
+	}
+	checkSeparate(t, name, result)
+	clear(result[:cap(result)])
+	if again := call(spareLists(lists)); !equalLists(again, want) {
+		t.Errorf("%s keeps state", name)
+	}
+}
