@@ -5,6 +5,7 @@ import (
 	"math"
 	"slices"
 	"strings"
+	"sync"
 	"testing"
 
 	"loop.example/g01154/impl"
@@ -383,7 +384,7 @@ func TestDegreeOfPoly(t *testing.T) {
 
 // raisedPowers returns, for each n, the exponents in the product of n factors x + x^2, multiplied out
 // one after the other: this is the sum of all squares of x^n.
-func raisedPowers() [][]int64 {
+var raisedPowers = sync.OnceValue(func() [][]int64 {
 	rows := [][]int64{{0}}
 	for n := range 40 {
 		odd := map[int64]bool{}
@@ -399,7 +400,7 @@ func raisedPowers() [][]int64 {
 		rows = append(rows, row)
 	}
 	return rows
-}
+})
 
 // squareByTrial multiplies the sums of all squares of powers, and takes what is raised by i.
 func squareByTrial(sum polySum, i int64) polySum {
